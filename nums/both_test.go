@@ -7,6 +7,7 @@ import (
 
 	"anabranch/api"
 	"anabranch/nums"
+	"anabranch/samples"
 )
 
 // P1.4: what was written, one thing after the other, is read again.
@@ -40,30 +41,6 @@ func TestReadAgain(t *testing.T) {
 	if r.End() != nil || r.Place() != len(b) {
 		t.Error(r.End(), r.Place())
 	}
-}
-
-// some returns all texts of up to that many of these bytes.
-func some(of string, most int) []string {
-	all, last := []string{""}, []string{""}
-	for range most {
-		var next []string
-		for _, s := range last {
-			for i := range len(of) {
-				next = append(next, s+of[i:i+1])
-			}
-		}
-		all, last = append(all, next...), next
-	}
-	return all
-}
-
-// everyByte has each byte once.
-func everyByte() string {
-	var b [256]byte
-	for i := range b {
-		b[i] = byte(i)
-	}
-	return string(b[:])
 }
 
 // numberBy reads a number as the chapter says, in big numbers; and how many bytes it has.
@@ -113,15 +90,15 @@ func sameAgain(t *testing.T, s string) {
 
 // P1.4, P1.2: each number has exactly one encoding: of all texts of two bytes, of longer ones of the bytes that matter, and around ten.
 func TestOneEncoding(t *testing.T) {
-	for _, s := range some(everyByte(), 2) {
+	for _, s := range samples.Short(samples.EveryByte(), 2) {
 		sameAgain(t, s)
 	}
-	for _, s := range some("\x00\x01\x7f\x80\x81\xff", 6) {
+	for _, s := range samples.Short("\x00\x01\x7f\x80\x81\xff", 6) {
 		sameAgain(t, s)
 	}
-	for _, head := range some("\x80\x81\x82\xff", 3) {
+	for _, head := range samples.Short("\x80\x81\x82\xff", 3) {
 		for _, middle := range []string{"\x80\x80\x80\x80\x80\x80", "\xff\xff\xff\xff\xff\xff"} {
-			for _, tail := range some("\x00\x7f\x80\xff", 4) {
+			for _, tail := range samples.Short("\x00\x7f\x80\xff", 4) {
 				sameAgain(t, head+middle+tail)
 			}
 		}
@@ -134,7 +111,7 @@ func TestAnyArguments(t *testing.T) {
 	for _, most := range []int{math.MinInt, -1, 0, 1, 3, math.MaxInt} {
 		all = append(all, readText(most))
 	}
-	for _, s := range some("\x00\x01\x02\x7f\x80\x81\xff", 4) {
+	for _, s := range samples.Short("\x00\x01\x02\x7f\x80\x81\xff", 4) {
 		for _, x := range all {
 			r := nums.New(s)
 			for {

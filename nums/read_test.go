@@ -8,6 +8,7 @@ import (
 
 	"anabranch/api"
 	"anabranch/nums"
+	"anabranch/samples"
 )
 
 // reading is one of a reader's calls that read: its results as a value, and its error.
@@ -85,7 +86,7 @@ func TestRead(t *testing.T) {
 		{readText(0), "00", ""},
 		{readText(3), "03 ff 00 80", "\xff\x00\x80"},
 	} {
-		s := unhex(t, c.bytes)
+		s := samples.Hex(c.bytes)
 		for _, before := range []int{0, 3} {
 			for _, behind := range []string{"", "\x00", "\x80\x7f"} {
 				r := at(t, before, s+behind)
@@ -167,7 +168,7 @@ var faults = []struct {
 // P1.2, P1: faults are At the position, come with zero values, and consume nothing.
 func TestFaults(t *testing.T) {
 	for _, c := range faults {
-		s := unhex(t, c.bytes)
+		s := samples.Hex(c.bytes)
 		for _, before := range []int{0, 5} {
 			r := at(t, before, s)
 			for range 2 {

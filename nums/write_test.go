@@ -2,24 +2,14 @@ package nums_test
 
 import (
 	"bytes"
-	"encoding/hex"
 	"math"
 	"math/big"
 	"strings"
 	"testing"
 
 	"anabranch/nums"
+	"anabranch/samples"
 )
-
-// unhex returns the bytes of hexadecimal digits, which may be apart.
-func unhex(t *testing.T, digits string) string {
-	t.Helper()
-	b, err := hex.DecodeString(strings.ReplaceAll(digits, " ", ""))
-	if err != nil {
-		t.Fatal(err)
-	}
-	return string(b)
-}
 
 // edges are the numbers where the count of digits changes, and those beside them.
 func edges() []uint64 {
@@ -76,7 +66,7 @@ func TestWrittenExamples(t *testing.T) {
 		{"no text", "00", nums.PText(nil, "")},
 		{"text of bytes that are no runes", "03 ff 00 80", nums.PText(nil, "\xff\x00\x80")},
 	} {
-		if string(c.got) != unhex(t, c.want) {
+		if string(c.got) != samples.Hex(c.want) {
 			t.Errorf("%s: %x, not %s", c.name, c.got, c.want)
 		}
 	}
