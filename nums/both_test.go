@@ -68,7 +68,7 @@ func sameAgain(t *testing.T, s string) {
 	r := nums.New(s)
 	n, err := r.U()
 	if code != api.OK {
-		if !isFault(err, code, 0) || n != 0 || r.Place() != 0 {
+		if !samples.IsFault(err, code, 0) || n != 0 || r.Place() != 0 {
 			t.Fatalf("%x: %d, %v; not %v", s, n, err, code)
 		}
 	} else if err != nil || n != want || r.Place() != size || string(nums.P(nil, n)) != s[:size] {

@@ -1,7 +1,6 @@
 package nums_test
 
 import (
-	"errors"
 	"math"
 	"strings"
 	"testing"
@@ -46,12 +45,6 @@ func at(t *testing.T, before int, s string) *nums.Reader {
 		}
 	}
 	return r
-}
-
-// isFault tells whether an error is a fault with that code, and there.
-func isFault(err error, code api.Errno, place int) bool {
-	f, is := err.(*api.Fault)
-	return is && f != nil && f.Code == code && f.At == place && errors.Is(err, code)
 }
 
 // P1.2: what is there is returned and consumed, and nothing after it is.
@@ -173,7 +166,7 @@ func TestFaults(t *testing.T) {
 			r := at(t, before, s)
 			for range 2 {
 				got, err := c.read(r)
-				if !isFault(err, c.code, before) || got != c.zero {
+				if !samples.IsFault(err, c.code, before) || got != c.zero {
 					t.Errorf("%s of %s, from %d on: %v, %v; not %v", c.name, c.bytes, before, got, err, c.code)
 				}
 				if r.Place() != before || r.Left() != len(s) {
@@ -187,16 +180,16 @@ func TestFaults(t *testing.T) {
 // P1.2: after a fault the same bytes can be read as something else.
 func TestReadAfterFault(t *testing.T) {
 	r := nums.New("\x02ab")
-	if _, err := r.Bool(); !isFault(err, api.ErrForm, 0) {
+	if _, err := r.Bool(); !samples.IsFault(err, api.ErrForm, 0) {
 		t.Error(err)
 	}
-	if _, err := r.Text(1); !isFault(err, api.ErrLong, 0) {
+	if _, err := r.Text(1); !samples.IsFault(err, api.ErrLong, 0) {
 		t.Error(err)
 	}
 	if s, err := r.Text(2); s != "ab" || err != nil {
 		t.Error(s, err)
 	}
-	if _, err := r.Byte(); !isFault(err, api.ErrShort, 3) {
+	if _, err := r.Byte(); !samples.IsFault(err, api.ErrShort, 3) {
 		t.Error(err)
 	}
 }
@@ -210,7 +203,7 @@ func TestFaultIsNew(t *testing.T) {
 		t.Fatal(err)
 	}
 	f.Code, f.At = api.ErrBusy, 77
-	if _, again := r.U(); !isFault(again, api.ErrShort, 0) {
+	if _, again := r.U(); !samples.IsFault(again, api.ErrShort, 0) {
 		t.Error(again)
 	}
 }
@@ -235,7 +228,7 @@ func TestPlaceLeftEnd(t *testing.T) {
 		if r.Place() != s.place || r.Left() != 7-s.place {
 			t.Errorf("at %d, %d left; not at %d", r.Place(), r.Left(), s.place)
 		}
-		if err := r.End(); s.place < 7 && !isFault(err, api.ErrLong, s.place) || s.place == 7 && err != nil {
+		if err := r.End(); s.place < 7 && !samples.IsFault(err, api.ErrLong, s.place) || s.place == 7 && err != nil {
 			t.Errorf("the end, at %d: %v", s.place, err)
 		}
 	}
@@ -248,11 +241,11 @@ func TestPlaceLeftEnd(t *testing.T) {
 func TestNilReader(t *testing.T) {
 	var r *nums.Reader
 	for _, x := range []reading{readU, readI, readByte, readBool, readText(5), readText(0), readText(-1)} {
-		if got, err := x.read(r); !isFault(err, api.ErrNil, 0) || got != x.zero {
+		if got, err := x.read(r); !samples.IsFault(err, api.ErrNil, 0) || got != x.zero {
 			t.Errorf("%s: %v, %v", x.name, got, err)
 		}
 	}
-	if !isFault(r.End(), api.ErrNil, 0) || r.Place() != 0 || r.Left() != 0 {
+	if !samples.IsFault(r.End(), api.ErrNil, 0) || r.Place() != 0 || r.Left() != 0 {
 		t.Error(r.End(), r.Place(), r.Left())
 	}
 }
@@ -260,7 +253,7 @@ func TestNilReader(t *testing.T) {
 // A reader that New didn't make has nothing to read.
 func TestZeroReader(t *testing.T) {
 	r := new(nums.Reader)
-	if _, err := r.U(); !isFault(err, api.ErrShort, 0) || r.End() != nil || r.Place() != 0 || r.Left() != 0 {
+	if _, err := r.U(); !samples.IsFault(err, api.ErrShort, 0) || r.End() != nil || r.Place() != 0 || r.Left() != 0 {
 		t.Error(err, r.End())
 	}
 }

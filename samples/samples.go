@@ -1,9 +1,12 @@
-// Package samples has bytes for the tests of all layers, so that each doesn't have its own; no layer uses it.
+// Package samples has what the tests of all layers need, so that each doesn't have its own: bytes, and a look at faults; no layer uses it.
 package samples
 
 import (
+	"errors"
 	"strconv"
 	"strings"
+
+	"anabranch/api"
 )
 
 // Hex returns the bytes of hexadecimal digits, which may be apart. It panics if they are not pairs of digits: only a test that is wrong has such.
@@ -42,4 +45,10 @@ func EveryByte() string {
 		b[i] = byte(i)
 	}
 	return string(b[:])
+}
+
+// IsFault tells whether an error is a fault with that code, and there.
+func IsFault(err error, code api.Errno, place int) bool {
+	f, is := err.(*api.Fault)
+	return is && f != nil && f.Code == code && f.At == place && errors.Is(err, code)
 }

@@ -4,6 +4,7 @@ import (
 	"slices"
 	"testing"
 
+	"anabranch/api"
 	"anabranch/samples"
 )
 
@@ -44,6 +45,25 @@ func TestEveryByte(t *testing.T) {
 	for i := range len(s) {
 		if len(s) != 256 || s[i] != byte(i) {
 			t.Fatalf("%x", s)
+		}
+	}
+}
+
+func TestIsFault(t *testing.T) {
+	var none *api.Fault
+	for _, c := range []struct {
+		err  error
+		want bool
+	}{
+		{&api.Fault{Code: api.ErrForm, At: 3}, true},
+		{&api.Fault{Code: api.ErrForm, At: 2}, false},
+		{&api.Fault{Code: api.ErrLong, At: 3}, false},
+		{api.ErrForm, false},
+		{none, false},
+		{nil, false},
+	} {
+		if got := samples.IsFault(c.err, api.ErrForm, 3); got != c.want {
+			t.Errorf("%#v: %v", c.err, got)
 		}
 	}
 }
