@@ -8,6 +8,7 @@ import (
 
 	"anabranch/api"
 	"anabranch/oper"
+	"anabranch/samples"
 )
 
 // r is the record of the chapter's examples.
@@ -132,26 +133,26 @@ func records(values []int64) []api.Rec {
 
 // P4.2, P1: any operator alone, for any record.
 func TestApplyOne(t *testing.T) {
-	for _, numbers := range [][]int64{edges(), small()} {
-		everyOp(numbers, func(op api.Op) {
+	for _, numbers := range [][]int64{samples.Edges(), samples.Small()} {
+		for op := range samples.EveryOp(numbers) {
 			if op.Agg != 0 && op.Agg != 2 {
-				return // as many again of those that are not valid
+				continue // as many again of those that are not valid
 			}
 			for _, x := range records(numbers) {
 				if got, want := oper.Apply([]api.Op{op}, x), resultsOf(op, x); !slices.Equal(got, want) {
 					t.Fatalf("%+v of %+v: %+v, not %+v", op, x, got, want)
 				}
 			}
-		})
+		}
 	}
 }
 
 // P4.2: each kind for each key at an edge.
 func TestApplyKeys(t *testing.T) {
 	keys := []uint32{0, 1, 2, 3, 4, 5, 1<<31 - 1, 1 << 31, 1<<32 - 2, 1<<32 - 1}
-	everyOp(edges(), func(op api.Op) {
+	for op := range samples.EveryOp(samples.Edges()) {
 		if op.Kind < 0 || op.Kind > 3 || op.Agg != 0 {
-			return
+			continue
 		}
 		for _, key := range keys {
 			x := api.Rec{Key: key, Time: -1, Val: 4, Side: 1}
@@ -159,7 +160,7 @@ func TestApplyKeys(t *testing.T) {
 				t.Fatalf("%+v of %+v: %+v, not %+v", op, x, got, want)
 			}
 		}
-	})
+	}
 }
 
 // The result is the caller's, and the list of operators stays as it is.

@@ -6,6 +6,7 @@ import (
 
 	"anabranch/api"
 	"anabranch/oper"
+	"anabranch/samples"
 )
 
 // allowed are valid operators, at the edges of each kind's row.
@@ -151,42 +152,10 @@ func isValid(op api.Op) bool {
 	return op.Kind != 5
 }
 
-// everyOp yields operators of all kinds, and of others, with each of these as A and B.
-func everyOp(numbers []int64, yield func(api.Op)) {
-	kinds := []int{math.MinInt, -1, 0, 1, 2, 3, 4, 5, 6, 7, 8, math.MaxInt}
-	for _, kind := range kinds {
-		for _, agg := range []int{math.MinInt, -1, 0, 1, 2, 3, 4, math.MaxInt} {
-			for _, a := range numbers {
-				for _, b := range numbers {
-					yield(api.Op{Kind: kind, A: a, B: b, Agg: agg})
-				}
-			}
-		}
-	}
-}
-
-// edges are numbers at which something begins or ends, from one of the rows or from Go's types, and some beside them.
-func edges() []int64 {
-	all := []int64{math.MinInt64, math.MaxInt64, 0, 1, -1, 6}
-	for _, n := range []int64{4, 1 << 28, 1 << 30, 1 << 32} {
-		all = append(all, n-1, n, n+1, -n)
-	}
-	return all
-}
-
-// small are the numbers from -3 to 24.
-func small() []int64 {
-	var all []int64
-	for n := range int64(28) {
-		all = append(all, n-3)
-	}
-	return all
-}
-
 // P4.1: any operator, by the table.
 func TestCheckByTheTable(t *testing.T) {
-	for _, numbers := range [][]int64{edges(), small()} {
-		everyOp(numbers, func(op api.Op) {
+	for _, numbers := range [][]int64{samples.Edges(), samples.Small()} {
+		for op := range samples.EveryOp(numbers) {
 			want := api.ErrOp
 			if isValid(op) {
 				want = api.OK
@@ -194,7 +163,7 @@ func TestCheckByTheTable(t *testing.T) {
 			if e := oper.Check(op); e != want {
 				t.Fatalf("%+v: %d, not %d", op, int(e), int(want))
 			}
-		})
+		}
 	}
 }
 
@@ -207,7 +176,7 @@ func TestClass(t *testing.T) {
 		api.OpMap: 0, api.OpKey: 0, api.OpFilter: 0, api.OpFlat: 0,
 		api.OpTumble: 1, api.OpSlide: 1, api.OpSession: 1, api.OpJoin: 2,
 	}
-	everyOp(edges(), func(op api.Op) {
+	for op := range samples.EveryOp(samples.Edges()) {
 		want, is := classes[op.Kind]
 		if !is {
 			want = -1
@@ -215,5 +184,5 @@ func TestClass(t *testing.T) {
 		if got := oper.Class(op); got != want {
 			t.Fatalf("%+v: %d, not %d", op, got, want)
 		}
-	})
+	}
 }

@@ -6,6 +6,7 @@ import (
 
 	"anabranch/api"
 	"anabranch/oper"
+	"anabranch/samples"
 )
 
 // few are operators of each kind, and some that leave records as they are.
@@ -18,21 +19,6 @@ var few = []api.Op{
 	{Kind: api.OpFlat, A: 4, B: 1},
 	{Kind: api.OpSlide, A: 4, B: 2, Agg: 1},
 	{Kind: 8, A: 1},
-}
-
-// lists returns all lists of up to that many of them.
-func lists(most int) [][]api.Op {
-	all, last := [][]api.Op{nil}, [][]api.Op{nil}
-	for range most {
-		var next [][]api.Op
-		for _, l := range last {
-			for _, op := range few {
-				next = append(next, append(slices.Clone(l), op))
-			}
-		}
-		all, last = append(all, next...), next
-	}
-	return all
 }
 
 // each returns the results of f for each record, in order.
@@ -49,7 +35,7 @@ func some() []api.Rec { return records([]int64{-3, 4, 0, 9}) }
 
 // P4.2: operator by operator, in order.
 func TestApplyLists(t *testing.T) {
-	for _, ops := range lists(4) {
+	for _, ops := range samples.Lists(few, 4) {
 		for _, x := range some() {
 			want := []api.Rec{x}
 			for _, op := range ops {
@@ -64,7 +50,7 @@ func TestApplyLists(t *testing.T) {
 
 // P4.3: two lists, one after the other.
 func TestApplyTwoLists(t *testing.T) {
-	all := lists(2)
+	all := samples.Lists(few, 2)
 	for _, first := range all {
 		for _, second := range all {
 			for _, x := range some() {
@@ -80,7 +66,7 @@ func TestApplyTwoLists(t *testing.T) {
 
 // P4.3: Times and Sides stay, so do Err and Late; there are no more records than the valid Flats make.
 func TestApplyKeepsTheRest(t *testing.T) {
-	for _, ops := range lists(4) {
+	for _, ops := range samples.Lists(few, 4) {
 		most := 1
 		for _, op := range ops {
 			if op.Kind == api.OpFlat && op.A <= 3 {

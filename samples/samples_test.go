@@ -1,6 +1,7 @@
 package samples_test
 
 import (
+	"math"
 	"slices"
 	"testing"
 
@@ -37,6 +38,45 @@ func TestShort(t *testing.T) {
 	}
 	if all := samples.Short("ab", 0); !slices.Equal(all, []string{""}) {
 		t.Errorf("%q", all)
+	}
+}
+
+func TestLists(t *testing.T) {
+	all := samples.Lists([]int{5, 7}, 2)
+	if want := [][]int{nil, {5}, {7}, {5, 5}, {5, 7}, {7, 5}, {7, 7}}; !slices.EqualFunc(all, want, slices.Equal[[]int]) {
+		t.Errorf("%d", all)
+	}
+}
+
+func TestEveryOp(t *testing.T) {
+	kinds, of := map[int]int{}, map[[2]int64]int{}
+	for op := range samples.EveryOp([]int64{3, -4}) {
+		kinds[op.Kind]++
+		of[[2]int64{op.A, op.B}]++
+	}
+	for kind := -1; kind <= api.LastOp+1; kind++ {
+		if kinds[kind] != 4*8 {
+			t.Errorf("%d: %d times", kind, kinds[kind])
+		}
+	}
+	if len(of) != 4 || of[[2]int64{3, -4}] != of[[2]int64{-4, 3}] {
+		t.Errorf("%d", of)
+	}
+	for op := range samples.EveryOp(samples.Edges()) { // it may be left
+		if op.A != samples.Edges()[0] {
+			break
+		}
+	}
+}
+
+func TestNumbers(t *testing.T) {
+	for _, n := range []int64{math.MinInt64, math.MaxInt64, 1 << 30, 1<<30 + 1, 1<<32 - 1, 1 << 32} {
+		if !slices.Contains(samples.Edges(), n) {
+			t.Errorf("no %d", n)
+		}
+	}
+	if l := samples.Small(); len(l) != 28 || l[0] != -3 || l[27] != 24 {
+		t.Errorf("%d", l)
 	}
 }
 
